@@ -2,6 +2,8 @@ package tests
 
 import (
 	"math"
+	"slices"
+	"testing"
 
 	"loop.example/g03225/impl"
 )
@@ -61,18 +63,22 @@ func powers() []int {
 }
 
 // allWords returns each of the 3^k words of k trits once, by ascending value.
-func allWords(k int) [][]int {
-	words := [][]int{{}}
+func allWords(k int) [][]int { return allLists(trits, k) }
+
+// allLists returns each list of k of the digits once. Of two lists, the one
+// with the earlier digit at the last place where they differ comes first.
+func allLists(digits []int, k int) [][]int {
+	lists := [][]int{{}}
 	for range k {
 		var longer [][]int
-		for _, trit := range trits {
-			for _, w := range words {
-				longer = append(longer, append(append([]int{}, w...), trit))
+		for _, digit := range digits {
+			for _, list := range lists {
+				longer = append(longer, append(slices.Clone(list), digit))
 			}
 		}
-		words = longer
+		lists = longer
 	}
-	return words
+	return lists
 }
 
 // shortWords returns all words of 1 to most trits.
@@ -128,3 +134,55 @@ func noWords() [][]int {
 
 // wrongLengths has numbers that no word has as its number of trits.
 var wrongLengths = []int{0, -1, -2, -3, -30, impl.MaxWord + 1, impl.MaxWord + 2, 64, 1 << 32, 1<<32 + 3, math.MaxInt, math.MaxInt - 1, math.MinInt, math.MinInt + 1, math.MinInt + 3}
+
+// checkMemory expects that a call changes nothing in the memory where its
+// arguments and what is behind them lie, and that its results share memory
+// neither with it nor with each other nor with those of another call.
+func checkMemory(t *testing.T, name string, memory []int, call func() [][]int) {
+	t.Helper()
+	before := slices.Clone(memory)
+	first := call()
+	results := append(slices.Clone(first), call()...)
+	if !slices.Equal(memory, before) {
+		t.Errorf("%s changes its arguments or what is behind them to %v", name, memory)
+	}
+	kept := copyLists(results)
+	fill(memory, 5)
+	if !equalLists(results, kept) {
+		t.Errorf("the results of %s change with its arguments to %v", name, results)
+	}
+	for i, result := range results {
+		fill(result[:cap(result)], 100+i)
+		for j, other := range results {
+			if j != i && slices.Contains(other, 100+i) {
+				t.Errorf("the results %d and %d of %s share memory", i, j, name)
+			}
+		}
+	}
+	if slices.ContainsFunc(memory, func(n int) bool { return n != 5 }) {
+		t.Errorf("the arguments of %s change with its results to %v", name, memory)
+	}
+	copy(memory, before)
+	if again := call(); !equalLists(again, kept[:len(first)]) {
+		t.Errorf("later results of %s change with earlier ones to %v", name, again)
+	}
+}
+
+func fill(list []int, n int) {
+	for i := range list {
+		list[i] = n
+	}
+}
+
+func copyLists(lists [][]int) [][]int {
+	var copied [][]int
+	for _, list := range lists {
+		copied = append(copied, slices.Clone(list))
+	}
+	return copied
+}
+
+// equalLists takes nil and empty lists as equal.
+func equalLists(a [][]int, b [][]int) bool {
+	return slices.EqualFunc(a, b, func(x []int, y []int) bool { return slices.Equal(x, y) })
+}

@@ -334,51 +334,11 @@ var wordFunctions = map[string]func(a []int, b []int) []int{
 	"JoinWords=":   func(a []int, b []int) []int { w, _ := impl.JoinWords(a, a); return w },
 }
 
-// TestArgumentsStayAsTheyAre gives words that lie one behind the other in the
-// same memory, with more of it behind them.
-func TestArgumentsStayAsTheyAre(t *testing.T) {
+func TestMemoryOfWordFunctions(t *testing.T) {
 	for name, call := range wordFunctions {
 		memory := []int{1, 0, -1, 1, 0, -1, -1, 1, 7, 7, 7, 7, 7, 7, 7, 7}
-		before := slices.Clone(memory)
-		result := call(memory[:4], memory[4:8])
-		if !slices.Equal(memory, before) {
-			t.Errorf("%s changes its arguments or what is behind them to %v", name, memory)
-		}
-		kept := slices.Clone(result)
-		for i := range memory {
-			memory[i] = 5
-		}
-		if !slices.Equal(result, kept) {
-			t.Errorf("the result of %s changes with its arguments to %v", name, result)
-		}
-		for i := range result[:cap(result)] {
-			result[:cap(result)][i] = 9
-		}
-		if slices.Contains(memory, 9) {
-			t.Errorf("the arguments of %s change with its result to %v", name, memory)
-		}
+		checkMemory(t, name, memory, func() [][]int { return [][]int{call(memory[:4], memory[4:8])} })
 	}
-}
-
-func TestResultsShareNothingWithEachOther(t *testing.T) {
-	for name, call := range wordFunctions {
-		a, b := []int{1, 0, -1, 1}, []int{0, -1, -1, 1}
-		first := call(a, b)
-		kept := slices.Clone(first)
-		second := call(a, b)
-		for i := range second {
-			second[i] = 9
-		}
-		if third := call(a, b); !slices.Equal(first, kept) || !slices.Equal(third, kept) {
-			t.Errorf("results of %s: %v and %v, not %v", name, first, third, kept)
-		}
-	}
-	first, _ := impl.WordOf(5, 3)
-	second, _ := impl.ParseWord("+--")
-	first[0], second[1] = 9, 9
-	third, ok := impl.WordOf(5, 3)
-	fourth, fine := impl.ParseWord("+--")
-	if !ok || !fine || !slices.Equal(third, []int{-1, -1, 1}) || !slices.Equal(fourth, []int{-1, -1, 1}) {
-		t.Errorf("results change with earlier ones to %v and %v", third, fourth)
-	}
+	checkMemory(t, "WordOf", nil, func() [][]int { w, _ := impl.WordOf(5, 3); return [][]int{w} })
+	checkMemory(t, "ParseWord", nil, func() [][]int { w, _ := impl.ParseWord("+--"); return [][]int{w} })
 }
