@@ -10,12 +10,7 @@ import (
 )
 
 // circuitMaker makes circuits whose tables and lines follow no short rule.
-type circuitMaker struct{ seed int }
-
-func (m *circuitMaker) number(below int) int {
-	m.seed = (m.seed*1103515245 + 12345) % (1 << 31)
-	return m.seed / 65536 % below
-}
+type circuitMaker struct{ numberMaker }
 
 func (m *circuitMaker) circuit(inputs int, gates int, outputs int) impl.Circuit {
 	c := impl.Circuit{Inputs: inputs}
@@ -36,7 +31,7 @@ func (m *circuitMaker) circuit(inputs int, gates int, outputs int) impl.Circuit 
 // least and the greatest numbers of gates and of outputs.
 func sampleCircuits() []impl.Circuit {
 	var circuits []impl.Circuit
-	maker := circuitMaker{1}
+	maker := circuitMaker{numberMaker{1}}
 	for inputs := range impl.MaxInputs + 1 {
 		for _, gates := range []int{0, 1, 2, 7, 20, impl.MaxGates} {
 			for _, outputs := range []int{0, 1, 3, impl.MaxGates} {
@@ -281,7 +276,7 @@ func TestCircuitsAreTheSameAsOthersWithEqualOutputs(t *testing.T) {
 // TestSmallCircuitsAreCompared takes circuits with so few inputs and gates that
 // many of them are the same.
 func TestSmallCircuitsAreCompared(t *testing.T) {
-	maker := circuitMaker{2}
+	maker := circuitMaker{numberMaker{2}}
 	counts := map[bool]int{}
 	for i := range 6000 {
 		inputs := i % 4

@@ -135,6 +135,15 @@ func noWords() [][]int {
 // wrongLengths has numbers that no word has as its number of trits.
 var wrongLengths = []int{0, -1, -2, -3, -30, impl.MaxWord + 1, impl.MaxWord + 2, 64, 1 << 32, 1<<32 + 3, math.MaxInt, math.MaxInt - 1, math.MinInt, math.MinInt + 1, math.MinInt + 3}
 
+// numberMaker makes numbers that follow no short rule.
+type numberMaker struct{ seed int }
+
+// number returns one from 0 to below - 1, where below is at most 32768.
+func (m *numberMaker) number(below int) int {
+	m.seed = (m.seed*1103515245 + 12345) % (1 << 31)
+	return m.seed / 65536 % below
+}
+
 // checkMemory expects that a call changes nothing in the memory where its
 // arguments and what is behind them lie, and that its results share memory
 // neither with it nor with each other nor with those of another call.
